@@ -187,9 +187,16 @@ func plainLine(b impl.Board, direction int, i int) [4]int {
 	return line
 }
 
-// plainSlide moves tile after tile, each one as far as it gets, and marks what has merged.
+// plainSlide returns the Board behind a slide, its score and the number of its mergers.
 func plainSlide(b impl.Board, direction int) (impl.Board, int, int) {
-	score, mergers := 0, 0
+	slid, score, merged := plainMergers(b, direction)
+	return slid, score, len(merged)
+}
+
+// plainMergers moves tile after tile, each one as far as it gets, and marks what has merged. It
+// returns the Board behind the slide, its score, and the cells behind it that are marked.
+func plainMergers(b impl.Board, direction int) (impl.Board, int, [][2]int) {
+	score, merged := 0, [][2]int(nil)
 	for i := range 4 {
 		cells := lineCells(direction, i)
 		at := func(k int) *int { return &b.Rows[cells[k][0]][cells[k][1]] }
@@ -204,13 +211,13 @@ func plainSlide(b impl.Board, direction int) (impl.Board, int, int) {
 					*at(k - 1), *at(k) = *at(k)+1, 0
 					marked[k-1] = true
 					score += worth(*at(k - 1))
-					mergers++
+					merged = append(merged, cells[k-1])
 				}
 				break
 			}
 		}
 	}
-	return b, score, mergers
+	return b, score, merged
 }
 
 func plainMoves(b impl.Board) []int {
